@@ -190,13 +190,18 @@ func isDigit(b byte) bool {
 	return b >= '0' && b <= '9'
 }
 
+// inName: may it stand in a name, though perhaps not at its begin?
+func inName(b byte) bool {
+	return isLetter(b) || isDigit(b) || b == '_'
+}
+
 // NameRight: see chapter 2.
 func NameRight(t string) bool {
 	if len(t) < 1 || len(t) > maxName || !isLetter(t[0]) {
 		return false
 	}
 	for i := 1; i < len(t); i++ {
-		if !isLetter(t[i]) && !isDigit(t[i]) && t[i] != '_' {
+		if !inName(t[i]) {
 			return false
 		}
 	}

@@ -123,6 +123,9 @@ func isRight(t *testing.T, i impl.Insn) {
 	if len(impl.Encode(i)) == 0 {
 		t.Errorf("%+v has words", i)
 	}
+	if impl.InsnText(i) == "" {
+		t.Errorf("%+v is written in some way", i)
+	}
 }
 
 func isWrong(t *testing.T, i impl.Insn) {
@@ -132,6 +135,9 @@ func isWrong(t *testing.T, i impl.Insn) {
 	}
 	if got := impl.Encode(i); len(got) != 0 {
 		t.Errorf("%+v has no words, got %v", i, got)
+	}
+	if got := impl.InsnText(i); got != "" {
+		t.Errorf("%+v is not written, got %q", i, got)
 	}
 }
 
